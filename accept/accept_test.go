@@ -51,7 +51,7 @@ func TestNewPush(t *testing.T) {
 		}
 	}
 	s := server(t, 1024)
-	if s.Version() != 0 || s.Tree().Len() != 0 || s.Oldest() != 0 {
+	if _, ok := s.At(0); !ok || s.Version() != 0 || s.Tree().Len() != 0 || s.Oldest() != 0 {
 		t.Error("a new one")
 	}
 	f := pushed(t, 7, n(1, put("a", 1)), n(2, put("b", 2)), n(4, put("d", 4)), n(3, put("c", 3)))
@@ -120,9 +120,9 @@ func TestLooks(t *testing.T) {
 	}
 	for _, s := range []*Server{nil, {}} {
 		_, ok1 := s.At(0)
-		_, ok2 := s.Last(1, 0)
+		last, ok2 := s.Last(1, 0)
 		a, e := s.Push(nil)
-		if e != api.ErrNil || a != (api.Accepted{}) || s.Version() != 0 || s.Tree().Root() != nil || ok1 || ok2 || s.Oldest() != 0 || s.Executed() != nil || s.Copy() != nil {
+		if e != api.ErrNil || a != (api.Accepted{}) || s.Version() != 0 || s.Tree().Root() != nil || ok1 || ok2 || last != 0 || s.Oldest() != 0 || s.Executed() != nil || s.Copy() != nil {
 			t.Error("of nil")
 		}
 	}

@@ -212,6 +212,9 @@ func TestTakeAccept(t *testing.T) {
 	if e := c.Take(f); e != api.ErrOld {
 		t.Error(e)
 	}
+	if e := c.Copy().Accept(api.PullResponse{Client: 7, Base: 6, Cookie: api.MaxNumber, Last: 3}); e != api.OK {
+		t.Error("the same last number, the greatest cookie", e)
+	}
 	if e := c.Accept(api.PullResponse{Client: 7, Base: 6, Cookie: 9, Last: 5, Patch: []api.PatchOp{{Kind: api.PatchClear}}}); e != api.OK || c.Head().Len() != 0 || c.Image().Next != 6 {
 		t.Error(e)
 	}

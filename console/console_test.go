@@ -9,6 +9,7 @@ import (
 
 	"commonplace/api"
 	"commonplace/mutator"
+	"commonplace/oracle"
 )
 
 func num(i int) api.Value { return api.Value{Kind: api.Int, Int: int64(i)} }
@@ -116,6 +117,62 @@ func TestWriteErrors(t *testing.T) {
 	}
 }
 
+// P32.1: what a command, an act, does not name has to be zero.
+func TestWriteWhatIsNotNamed(t *testing.T) {
+	values := []api.Value{{Kind: 1}, {Bool: true}, {Int: 1}, {Text: "a"}, {List: []api.Value{{}}}, {Object: []api.Member{{}}}}
+	changes := map[string]func(a *api.Act){
+		"Who": func(a *api.Act) { a.Who++ }, "At": func(a *api.Act) { a.At++ }, "N": func(a *api.Act) { a.N++ }, "Mask": func(a *api.Act) { a.Mask = 9 },
+		"Query Kind": func(a *api.Act) { a.Query.Kind = api.QueryRange }, "Query Lo": func(a *api.Act) { a.Query.Lo += "x" }, "Query Hi": func(a *api.Act) { a.Query.Hi = "x" }, "Query Open": func(a *api.Act) { a.Query.Open = true },
+		"Mutator Kind": func(a *api.Act) { a.Mutator.Kind = api.MutInc }, "Mutator Key": func(a *api.Act) { a.Mutator.Key = "x" }, "Mutator To": func(a *api.Act) { a.Mutator.To = "x" }, "Mutator Int": func(a *api.Act) { a.Mutator.Int = 1 }, "Mutator Had": func(a *api.Act) { a.Mutator.Had = true }, "Mutator Has": func(a *api.Act) { a.Mutator.Has = true }, "Mutator List": func(a *api.Act) { a.Mutator.List = []api.Mutator{{}} },
+	}
+	for i, v := range values {
+		changes[fmt.Sprint("Mutator Was ", i)] = func(a *api.Act) { a.Mutator.Was = v }
+		changes[fmt.Sprint("Mutator Value ", i)] = func(a *api.Act) { a.Mutator.Value = v }
+	}
+	named := func(k api.ActKind, name string) bool {
+		switch k {
+		case api.ActMutate:
+			return name == "Who" || strings.HasPrefix(name, "Mutator")
+		case api.ActPush, api.ActCancel:
+			return name == "Who" || name == "N"
+		case api.ActPull, api.ActSave, api.ActCrash:
+			return name == "Who"
+		case api.ActSpoil:
+			return name == "At" || name == "N" || name == "Mask"
+		case api.ActSubscribe:
+			return name == "Who" || name == "Query Lo" || name == "Query Kind"
+		}
+		return name == "At"
+	}
+	for line, c := range commands() {
+		for name, change := range changes {
+			d := c
+			d.Act.Mutator = mutator.Copy(c.Act.Mutator)
+			change(&d.Act)
+			s, e := Write(d)
+			if c.Kind == api.CmdAct && named(c.Act.Kind, name) {
+				continue
+			}
+			if c.Act.Kind == api.ActSubscribe && c.Act.Query.Kind == api.QueryRange && strings.HasPrefix(name, "Query") {
+				continue
+			}
+			if e != api.ErrArg || s != "" {
+				t.Errorf("%s with %s: %q %v", line, name, s, e)
+			}
+		}
+		for _, change := range []func(c *api.Command){func(c *api.Command) { c.A++ }, func(c *api.Command) { c.B++ }} {
+			d := c
+			change(&d)
+			_, e := Write(d)
+			a := d.A != c.A && (c.Kind == api.CmdHead || c.Kind == api.CmdView || c.Kind == api.CmdRound || c.Kind == api.CmdSettle)
+			both := c.Kind == api.CmdWorld || c.Kind == api.CmdResult
+			if !a && !both && e != api.ErrArg {
+				t.Errorf("%s: %v", line, e)
+			}
+		}
+	}
+}
+
 // say runs pairs of a line and its answers, the latter with a ';' between two.
 func say(t *testing.T, c *Console, l ...string) {
 	t.Helper()
@@ -179,6 +236,16 @@ func TestOutcome(t *testing.T) {
 			t.Errorf("%s, want %s", s, want)
 		}
 	}
+}
+
+// An oracle that has not followed what happened finds it wrong.
+func TestJudgeWrong(t *testing.T) {
+	c := New()
+	c.Run("world 2 5", `do 2 {"name":"inc","args":{"key":"n","by":1}}`)
+	c.oracle, _ = oracle.New(2)
+	say(t, c, "judge", "wrong 2 gap", "settle 1", "ok rounds 2 settled", "judge", "right")
+	c.oracle, _ = oracle.New(3)
+	say(t, c, "judge", "wrong 0 range")
 }
 
 func randomLine(rnd *rand.Rand) string {

@@ -82,6 +82,11 @@ func TestNewMemory(t *testing.T) {
 	if l[0].Was.List[0].Int != 1 {
 		t.Error("memory is shared with what was handed in")
 	}
+	l = Changes(tree.Tree{}, a)
+	Back(l...)[0].Was.List[0] = num(3)
+	if l[0].Is.List[0].Int != 1 {
+		t.Error("memory is shared with what was handed in")
+	}
 	c := api.Change{Key: "j", Has: true, Is: api.Value{Kind: api.List, List: []api.Value{num(1)}}}
 	b, _ := Apply(a, c)
 	c.Is.List[0] = num(9)
@@ -99,6 +104,9 @@ func TestApplyBack(t *testing.T) {
 		{{Key: "x", Had: true, Was: num(2)}},
 		{{Key: "x", Had: true, Was: num(1), Has: true, Is: num(1)}},
 		{{Key: "z"}},
+		{{Key: "z", Is: num(1)}},
+		{{Key: "x", Has: true, Is: num(1)}},
+		{{Key: "z", Had: true, Was: num(1), Has: true, Is: num(2)}},
 		{{Key: "x", Had: true, Was: num(1)}, {Key: "x", Had: true, Was: num(1)}},
 	} {
 		if b, e := Apply(a, l...); e != api.ErrState || b.Root() != nil {

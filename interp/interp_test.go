@@ -87,6 +87,7 @@ func TestRun(t *testing.T) {
 		{`{"a":1,"b":2}`, `{"name":"move","args":{"from":"","to":""}}`, `{"a":1,"b":2}`, api.OK},
 		{`{"a":1,"ab":2}`, `{"name":"move","args":{"from":"a","to":""}}`, ``, api.ErrKey},
 		{`{"ab":1,"b":2}`, `{"name":"move","args":{"from":"a","to":""}}`, ``, api.ErrState},
+		{`{"a":1,"ab":2,"b":3}`, `{"name":"move","args":{"from":"a","to":""}}`, ``, api.ErrKey},
 		{`{"a1":1,"a12345":2,"` + k60 + `1":0}`, `{"name":"move","args":{"from":"a","to":"` + k60 + `"}}`, ``, api.ErrState},
 		{`{"a":1,"a12345":2,"` + k60 + `1":0}`, `{"name":"move","args":{"from":"a","to":"` + k60 + `"}}`, ``, api.ErrKey},
 		{`{"x":1}`, `{"name":"seq","args":{"do":[{"name":"inc","args":{"key":"x","by":1}},{"name":"put","args":{"key":"y","value":0}}]}}`, `{"x":2,"y":0}`, api.OK},
@@ -149,6 +150,9 @@ func TestMoveOfWhatMayNotBe(t *testing.T) {
 		t.Error(e)
 	}
 	odd := tree.Tree{}.Put("", num(1)).Put("a", num(2))
+	if b, e := Run(odd, api.Mutator{Kind: api.MutSeq, List: []api.Mutator{{Kind: api.MutDel, Key: "a"}}}); e != api.OK || b.Len() != 1 {
+		t.Error("a sequence without a guard", e)
+	}
 	if b, e := Run(odd, api.Mutator{Kind: api.MutMove, Key: "", To: "a"}); e != api.OK || b.Len() != 2 {
 		t.Error(e)
 	}

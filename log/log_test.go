@@ -69,6 +69,9 @@ func TestPutAt(t *testing.T) {
 	} else if _, ok := m.At(api.MaxNumber); !ok {
 		t.Error("at the greatest number")
 	}
+	if m := made(t, 3); m.Put(5, of(0)) != api.OK || m.Put(7, of(0)) != api.ErrGap || m.Put(4, of(0)) != api.ErrOld || m.Len() != 1 {
+		t.Error("a gap behind the first one")
+	}
 	if m := made(t, 3); m.Put(0, of(0)) != api.OK || m.Put(0, of(0)) != api.ErrOld || m.Put(1, of(1)) != api.OK {
 		t.Error("version 0")
 	}
@@ -80,10 +83,10 @@ func TestNilAndZero(t *testing.T) {
 			t.Error("Put")
 		}
 		_, ok1 := l.At(0)
-		_, ok2 := l.Newest()
-		_, ok3 := l.Oldest()
-		_, ok4 := l.Since(0)
-		if ok1 || ok2 || ok3 || ok4 {
+		newest, ok2 := l.Newest()
+		oldest, ok3 := l.Oldest()
+		since, ok4 := l.Since(0)
+		if ok1 || ok2 || ok3 || ok4 || newest+oldest+since != 0 {
 			t.Error("looks")
 		}
 		for range l.All() {

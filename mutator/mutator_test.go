@@ -98,6 +98,56 @@ func TestMay(t *testing.T) {
 	}
 }
 
+// zeroButOne are values of which just one field is not zero.
+func zeroButOne() []api.Value {
+	return []api.Value{{Kind: 1}, {Bool: true}, {Int: 1}, {Text: "a"}, {List: []api.Value{{}}}, {Object: []api.Member{{}}}}
+}
+
+// P11.1: what each Kind does not name has to be zero.
+func TestMayWhatIsNotNamed(t *testing.T) {
+	good := map[api.MutKind]api.Mutator{
+		api.MutPut:    {Kind: api.MutPut, Key: "a", Value: num(1)},
+		api.MutDel:    del,
+		api.MutInc:    {Kind: api.MutInc, Key: "a", Int: 1},
+		api.MutCas:    {Kind: api.MutCas, Key: "a"},
+		api.MutAppend: {Kind: api.MutAppend, Key: "a", Value: num(1)},
+		api.MutMove:   {Kind: api.MutMove, Key: "a", To: "b"},
+		api.MutSeq:    {Kind: api.MutSeq, Key: "a", List: []api.Mutator{del}},
+	}
+	fields := map[string]func(m *api.Mutator){
+		"To": func(m *api.Mutator) { m.To = "x" }, "Int": func(m *api.Mutator) { m.Int = 7 }, "Had": func(m *api.Mutator) { m.Had, m.Was = true, num(1) }, "Has": func(m *api.Mutator) { m.Has, m.Value = true, num(1) }, "List": func(m *api.Mutator) { m.List = []api.Mutator{del} },
+		"Had alone": func(m *api.Mutator) { m.Had = true }, "Has alone": func(m *api.Mutator) { m.Has = true },
+	}
+	named := map[api.MutKind]string{api.MutInc: " Int ", api.MutCas: " Had Has Had alone Has alone ", api.MutMove: " To ", api.MutSeq: " Had List Had alone "}
+	for k, m := range good {
+		if e := May(m); e != api.OK {
+			t.Error(k, e)
+		}
+		for name, change := range fields {
+			n := Copy(m)
+			change(&n)
+			if e := May(n); e != api.ErrKind && !strings.Contains(named[k], " "+name+" ") {
+				t.Error(k, name, e)
+			}
+		}
+		for i, v := range zeroButOne() {
+			n := Copy(m)
+			n.Was = v
+			if e := May(n); e != api.ErrKind {
+				t.Error(k, "Was", i, e)
+			}
+			if k == api.MutPut || k == api.MutAppend {
+				continue
+			}
+			n = Copy(m)
+			n.Value = v
+			if e := May(n); e != api.ErrKind {
+				t.Error(k, "Value", i, e)
+			}
+		}
+	}
+}
+
 // P11.2
 func TestTextParse(t *testing.T) {
 	for want, m := range samples() {
@@ -124,7 +174,7 @@ func TestReadErrors(t *testing.T) {
 	for s, want := range map[string]api.Errno{
 		`{`: api.ErrSyntax, `[]`: api.ErrKind, `1`: api.ErrKind, `{}`: api.ErrField, `{"args":{}}`: api.ErrField, `{"name":"del"}`: api.ErrField, `{"args":{"key":"a"},"name":"del","x":1}`: api.ErrField, `{"a":1,"args":{"key":"a"},"name":"del"}`: api.ErrField,
 		`{"args":1,"name":2}`: api.ErrKind, `{"args":1,"name":"x"}`: api.ErrNone, `{"args":1,"name":""}`: api.ErrNone, `{"args":1,"name":"del"}`: api.ErrKind, `{"args":{},"name":"del"}`: api.ErrField, `{"args":{"key":1},"name":"del"}`: api.ErrKind, `{"args":{"key":""},"name":"del"}`: api.ErrKey,
-		`{"args":{"key":1,"x":1},"name":"del"}`: api.ErrField, `{"args":{"key":"a"},"name":"put"}`: api.ErrField, `{"args":{"key":"a","value":1,"was":1},"name":"put"}`: api.ErrField, `{"args":{"by":"1","key":1},"name":"inc"}`: api.ErrKind, `{"args":{"by":1,"key":1},"name":"inc"}`: api.ErrKind, `{"args":{"is":1,"was":1},"name":"cas"}`: api.ErrField, `{"args":{"is":1,"key":"","was":1},"name":"cas"}`: api.ErrKey,
+		`{"args":{"key":1,"x":1},"name":"del"}`: api.ErrField, `{"args":{"key":"a"},"name":"put"}`: api.ErrField, `{"args":{"key":"a","value":1,"was":1},"name":"put"}`: api.ErrField, `{"args":{"by":"1","key":1},"name":"inc"}`: api.ErrKind, `{"args":{"by":1,"key":1},"name":"inc"}`: api.ErrKind, `{"args":{"by":"1","key":"a"},"name":"inc"}`: api.ErrKind, `{"args":{"by":1,"key":""},"name":"inc"}`: api.ErrKey, `{"args":{"is":1,"was":1},"name":"cas"}`: api.ErrField, `{"args":{"is":1,"key":"","was":1},"name":"cas"}`: api.ErrKey,
 		`{"args":{"from":1,"to":""},"name":"move"}`: api.ErrKind, `{"args":{"from":"","to":1},"name":"move"}`: api.ErrKind, `{"args":{"key":"","to":""},"name":"move"}`: api.ErrField,
 		`{"args":{"do":{}},"name":"seq"}`: api.ErrKind, `{"args":{"do":[1]},"name":"seq"}`: api.ErrKind, `{"args":{"do":[{}],"if":1},"name":"seq"}`: api.ErrField, `{"args":{"if":{"key":"a"}},"name":"seq"}`: api.ErrField, `{"args":{"do":[],"if":[]},"name":"seq"}`: api.ErrKind, `{"args":{"do":[],"if":{}},"name":"seq"}`: api.ErrField, `{"args":{"do":[],"if":{"was":1}},"name":"seq"}`: api.ErrField, `{"args":{"do":[],"if":{"key":1}},"name":"seq"}`: api.ErrKind, `{"args":{"do":[],"if":{"key":1,"x":1}},"name":"seq"}`: api.ErrField, `{"args":{"do":[],"if":{"key":""}},"name":"seq"}`: api.ErrKey, `{"args":{"do":[],"if":{"key":"","was":1}},"name":"seq"}`: api.ErrKey,
 		`{"args":{"do":[{"args":{"key":""},"name":"del"},1]},"name":"seq"}`: api.ErrKind, `{"args":{"do":[{"args":{},"name":"y"},1]},"name":"seq"}`: api.ErrNone, `{"args":{"do":[{"args":{"key":""},"name":"del"}],"if":{"key":""}},"name":"seq"}`: api.ErrKey,
@@ -158,6 +208,9 @@ func TestNewMemory(t *testing.T) {
 	c := Copy(m)
 	m.Was.List[0], m.List[0].Value.List[0] = num(8), num(9)
 	s, _ := encode.Text(v)
+	args := v.Object[0].Value.Object
+	args[0].Value.List[0].Object[0].Value.Object[1].Value.List[0] = num(5)
+	args[1].Value.Object[1].Value.List[0] = num(6)
 	if want := `{"args":{"do":[{"args":{"key":"a","value":[2]},"name":"put"}],"if":{"key":"k","was":[1]}},"name":"seq"}`; s != want {
 		t.Error(s)
 	}

@@ -54,6 +54,8 @@ func TestLeaf(t *testing.T) {
 		if len(in) > 0 {
 			in[0].Key, in[0].Value.List[0].Int = "changed", 99
 			n.Entries()[0].Value.List[0].Int = 98
+			first, _ := n.Entry(0)
+			first.Value.List[0].Int = 97
 			if x, _ := n.Entry(0); x.Key != keys[0] || x.Value.List[0].Int != int64(len(keys[0])) {
 				t.Error("memory is shared", x)
 			}

@@ -164,6 +164,9 @@ func TestNewNoteIssued(t *testing.T) {
 			t.Error(n, e)
 		}
 	}
+	if o, e := New(32); o == nil || e != api.OK {
+		t.Error(e)
+	}
 	o, e := New(2)
 	if e != api.OK || len(o.Issued(1)) != 0 {
 		t.Error(e)

@@ -23,6 +23,7 @@ func TestParse(t *testing.T) {
 	for s, want := range map[string]string{
 		"null": "null", "\t\n\r true": "true", "false ": "false", "0": "0", "-1": "-1", "9223372036854775807": "9223372036854775807", "-9223372036854775808": "-9223372036854775808",
 		`"\u0041"`: `"A"`, "[ ]": "[]", "{ }": "{}", "[1 , 2]": "[1,2]", `{"":{"a":null}}`: `{"":{"a":null}}`, `{"b":1,"\u0061":2}`: `{"a":2,"b":1}`,
+		"[" + strings.Repeat("[{\"a\":[]}],", 99) + "0]":  "[" + strings.Repeat("[{\"a\":[]}],", 99) + "0]",
 		strings.Repeat("[", 64) + strings.Repeat("]", 64): strings.Repeat("[", 64) + strings.Repeat("]", 64),
 	} {
 		v, at, e := Parse(s)

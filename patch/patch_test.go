@@ -54,6 +54,18 @@ func TestMay(t *testing.T) {
 	}
 }
 
+// P14.1: what each Kind does not name has to be zero.
+func TestMayWhatIsNotNamed(t *testing.T) {
+	for i, v := range []api.Value{{Kind: 1}, {Bool: true}, {Int: 1}, {Text: "a"}, {List: []api.Value{{}}}, {Object: []api.Member{{}}}} {
+		if e := May(api.PatchOp{Kind: api.PatchDel, Key: "a", Value: v}); e != api.ErrArg {
+			t.Error(i, e)
+		}
+		if e := May(api.PatchOp{Kind: api.PatchClear, Value: v}); e != api.ErrArg {
+			t.Error(i, e)
+		}
+	}
+}
+
 func trees() (tree.Tree, tree.Tree) {
 	return tree.Tree{}.Put("x", num(1)).Put("y", num(2)), tree.Tree{}.Put("y", num(3)).Put("z", num(4))
 }

@@ -34,7 +34,7 @@ func TestOf(t *testing.T) {
 		e          api.Errno
 	}{
 		{0, 1, nil, api.OK}, {3, 4, nil, api.OK}, {3, 6, []api.Numbered{n(4, "a"), n(5, "b")}, api.OK}, {max, max + 1, nil, api.OK}, {max - 1, max + 1, []api.Numbered{n(max, "a")}, api.OK},
-		{max + 1, max + 2, nil, api.ErrNum}, {0, 0, nil, api.ErrNum}, {max, max + 2, nil, api.ErrNum}, {0, 0, []api.Numbered{n(9, "a")}, api.ErrNum},
+		{max + 1, max + 2, nil, api.ErrNum}, {max + 1, 5, nil, api.ErrNum}, {0, 0, nil, api.ErrNum}, {max, max + 2, nil, api.ErrNum}, {0, 0, []api.Numbered{n(9, "a")}, api.ErrNum},
 		{3, 5, nil, api.ErrGap}, {3, 3, nil, api.ErrGap}, {3, 2, nil, api.ErrGap}, {3, 6, []api.Numbered{n(5, "b"), n(4, "a")}, api.ErrGap}, {3, 5, []api.Numbered{n(4, "a"), n(5, "b")}, api.ErrGap}, {3, 6, []api.Numbered{n(4, "a")}, api.ErrGap}, {3, 6, []api.Numbered{n(4, "a"), n(4, "a")}, api.ErrGap}, {3, 5, []api.Numbered{n(3, "a")}, api.ErrGap},
 	} {
 		q, e := Of(x.last, x.next, x.l...)
@@ -72,6 +72,10 @@ func TestAddCut(t *testing.T) {
 	}
 	if q.Cut(2) != api.OK || told(q.All()) != "3c 4d " || q.Cut(4) != api.OK || q.Len() != 0 || q.Next() != 5 || q.Cut(4) != api.OK {
 		t.Error("Cut")
+	}
+	nearly, _ := Of(api.MaxNumber-1, api.MaxNumber)
+	if id, e := nearly.Add(mut("a")); id != api.MaxNumber || e != api.OK {
+		t.Error(id, e)
 	}
 	full, _ := Of(api.MaxNumber, api.MaxNumber+1)
 	if id, e := full.Add(mut("a")); id != 0 || e != api.ErrNum || full.Len() != 0 {

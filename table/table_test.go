@@ -124,6 +124,15 @@ func TestNewestClientsCopy(t *testing.T) {
 	if x.Last(7) != 3 {
 		t.Error("not apart")
 	}
+	for id := uint64(1); id <= 3; id++ {
+		c.Note(5, 20+id, id)
+	}
+	d := c.Copy()
+	c.Note(5, 24, 4)
+	d.Note(5, 30, 4)
+	if id, _ := c.At(5, 24); id != 4 {
+		t.Error("not apart", id)
+	}
 	var none *Table
 	_, ok1 := none.At(1, 1)
 	_, _, ok2 := none.Who(1)
@@ -187,8 +196,11 @@ func TestWhatFollows(t *testing.T) {
 				}
 			}
 		}
-		if len(x.notes) > 4 {
-			t.Fatal("too many clients")
+		x.Forget(version)
+		for c, l := range x.notes {
+			if len(l) != 1 {
+				t.Fatal("more is kept than is needed", c, len(l))
+			}
 		}
 	}
 }

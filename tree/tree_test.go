@@ -53,6 +53,10 @@ func TestBuildOf(t *testing.T) {
 	if b := Build(append(entries2("b", "a"), api.Entry{Key: "b", Value: num(7)})...); b.Len() != 2 || b.Entries()[1].Value.Int != 7 {
 		t.Error(b.Entries())
 	}
+	eight := Build(entries2("a", "b", "c", "d", "e", "f", "g", "h")...)
+	if outline(eight.Root()) != "8" {
+		t.Error(outline(eight.Root()))
+	}
 	if Build().Root() != nil {
 		t.Error("of none")
 	}
@@ -191,6 +195,9 @@ func TestLooks(t *testing.T) {
 	}
 	back, _ := b.Delete("z")
 	if !back.Same(a) || back.Is(a) || a.Same(b) || a.Same(a.Put("a", num(5))) || !none.Same(Tree{}) || a.Same(none) {
+		t.Error("Same")
+	}
+	if x := (api.Entry{Key: "x", Value: num(1)}); Build(x).Same(Build(api.Entry{Key: "y", Value: num(1)})) || !Build(x).Same(Build(x)) {
 		t.Error("Same")
 	}
 	if Fresh(a, b) != 2 || Fresh(b, a) != 2 || Fresh(a, a) != 0 || Fresh(none, a) != 3 || Fresh(a, none) != 0 {

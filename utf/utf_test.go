@@ -1,7 +1,9 @@
 package utf
 
 import (
+	"fmt"
 	"math/rand"
+	"strconv"
 	"strings"
 	"testing"
 	"unicode/utf8"
@@ -125,6 +127,67 @@ func TestUnquote(t *testing.T) {
 	} {
 		if s, n, e := Unquote(x.s, x.at); s != x.text || n != x.end || e != x.e {
 			t.Errorf("%q at %d: %q %d %v", x.s, x.at, s, n, e)
+		}
+	}
+}
+
+// P1.2: each rune by its escape, or by the escapes of its halves.
+func TestEscapesOfAllRunes(t *testing.T) {
+	for r := rune(0); r <= 0x10FFFF; r++ {
+		if r > 0x10400 && r < 0x10FC00 && r%97 > 0 || r >= 0xD800 && r <= 0xDFFF {
+			continue
+		}
+		escape := fmt.Sprintf("\\u%04x", r)
+		if r > 0xFFFF {
+			escape = fmt.Sprintf("\\u%04X\\u%04x", 0xD800+(r-0x10000)>>10, 0xDC00+(r-0x10000)&0x3FF)
+		}
+		if s, n, e := Unquote(`"`+escape+`"`, 0); s != string(r) || n != len(escape)+2 || e != api.OK {
+			t.Fatalf("%s: %q %d %v", escape, s, n, e)
+		}
+	}
+	for r := rune(0xD800); r <= 0xDFFF; r++ {
+		for _, behind := range []string{"", "x", `\ud7ff`, `\udbff`, `\ue000`, `\n`, `\u12`, `\\udc00`, `udc00`, `xudc00`} {
+			if s, n, e := Unquote(fmt.Sprintf(`"x\u%04X%s"`, r, behind), 0); s != "" || n != 2 || e != api.ErrUTF {
+				t.Fatalf("%x %s: %q %d %v", r, behind, s, n, e)
+			}
+		}
+		if s, n, e := Unquote(fmt.Sprintf(`"\udc00\u%04x"`, r), 0); s != "" || n != 1 || e != api.ErrUTF {
+			t.Fatalf("%x: %q %d %v", r, s, n, e)
+		}
+	}
+}
+
+// P1.2: whatever byte stands in an escape.
+func TestBytesOfEscapes(t *testing.T) {
+	for c := range 256 {
+		in := strings.ContainsRune("0123456789abcdefABCDEF", rune(c))
+		for place := range 4 {
+			four := []byte("0041")
+			four[place] = byte(c)
+			s, n, e := Unquote(`"\u`+string(four)+`"`, 0)
+			want, err := strconv.ParseUint(string(four), 16, 32)
+			if in && (err != nil || want < 0xD800 || want > 0xDFFF) && (s != string(rune(want)) || n != 8 || e != api.OK) || !in && (s != "" || n != 1 || e != api.ErrSyntax) {
+				t.Errorf("%q: %q %d %v", four, s, n, e)
+			}
+		}
+		s, n, e := Unquote(`"\`+string([]byte{byte(c)})+`"`, 0)
+		r, ok := map[int]string{'"': "\"", '\\': "\\", '/': "/", 'b': "\b", 'f': "\f", 'n': "\n", 'r': "\r", 't': "\t"}[c]
+		if ok && (s != r || n != 4 || e != api.OK) || !ok && (s != "" || n != 1 || e != api.ErrSyntax) {
+			t.Errorf("%x: %q %d %v", c, s, n, e)
+		}
+		plain := c >= 0x20 && c < 0x80 && c != '"' && c != '\\'
+		s, n, e = Unquote(`"`+string([]byte{byte(c)})+`"`, 0)
+		if plain && (s != string(rune(c)) || n != 3 || e != api.OK) || c < 0x20 && (n != 1 || e != api.ErrSyntax) || c >= 0x80 && (n != 1 || e != api.ErrUTF) {
+			t.Errorf("%x: %q %d %v", c, s, n, e)
+		}
+		q, _ := Quote(string(rune(c)))
+		if plain && q != `"`+string(rune(c))+`"` {
+			t.Errorf("%x: %s", c, q)
+		}
+	}
+	for s, n := range map[string]int{`"\`: 1, `"\u`: 1, `"\u0`: 1, `"\u00`: 1, `"\u004`: 1, `"\u0041`: 7, `"\n`: 3, `"`: 1} {
+		if text, at, e := Unquote(s, 0); text != "" || at != n || e != api.ErrSyntax {
+			t.Errorf("%s: %q %d %v", s, text, at, e)
 		}
 	}
 }

@@ -37,6 +37,7 @@ func TestMay(t *testing.T) {
 		{api.Value{Kind: api.Null, Bool: true}, api.ErrKind}, {api.Value{Kind: api.Bool, Int: 1}, api.ErrKind},
 		{api.Value{Kind: api.Int, Text: "a"}, api.ErrKind}, {api.Value{Kind: api.Text, Text: "\xff", List: []api.Value{null}}, api.ErrKind},
 		{api.Value{Kind: api.List, Object: []api.Member{{}}}, api.ErrKind}, {api.Value{Kind: api.Object, List: []api.Value{null}}, api.ErrKind},
+		{api.Value{Kind: api.List, Object: []api.Member{{Value: null}}}, api.ErrKind}, {api.Value{Kind: api.Object, List: []api.Value{null}, Object: []api.Member{{Value: null}}}, api.ErrKind}, {api.Value{Kind: api.Null, Text: "a"}, api.ErrKind}, {api.Value{Kind: api.Null, Int: 1}, api.ErrKind},
 		{text("\xff"), api.ErrUTF},
 		{nest(63, num(1)), api.OK}, {nest(64, num(1)), api.ErrDeep}, {nest(63, list()), api.OK},
 		{nest(64, api.Value{}), api.ErrKind}, {nest(64, text("\xff")), api.ErrDeep}, {nest(63, text("\xff")), api.ErrUTF},
@@ -135,6 +136,9 @@ func TestObjectMember(t *testing.T) {
 	}
 	if v, e := Object(in[0], in[1], api.Member{Key: "b"}); e != api.ErrKey || !reflect.DeepEqual(v, api.Value{}) {
 		t.Error(v, e)
+	}
+	if _, e := Object(in[1], in[1]); e != api.ErrKey {
+		t.Error(e)
 	}
 	if v, e := Object(); e != api.OK || v.Kind != api.Object || len(v.Object) != 0 {
 		t.Error(v, e)

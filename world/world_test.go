@@ -207,6 +207,7 @@ func TestCrashAndEvents(t *testing.T) {
 	do(t, w, act(api.ActSave, 1), ok)
 	do(t, w, api.Act{Kind: api.ActCancel, Who: 1, N: 2}, ok)
 	do(t, w, api.Act{Kind: api.ActCancel, Who: 1, N: 2}, api.Told{Code: api.ErrNone})
+	do(t, w, api.Act{Kind: api.ActCancel, Who: 1, N: 0}, api.Told{Code: api.ErrNone})
 	do(t, w, api.Act{Kind: api.ActCancel, Who: 1, N: -1}, api.Told{Code: api.ErrRange})
 	do(t, w, mutate(1, inc("a/1", 1)), api.Told{ID: 3, Events: []api.Event{event(1, 2, 3)}})
 	do(t, w, act(api.ActCrash, 1), api.Told{Events: []api.Event{event(1, 3, 2)}})
